@@ -1,6 +1,7 @@
 package ferry_test
 
 import (
+	"math"
 	"math/rand"
 	"slices"
 	"strings"
@@ -32,11 +33,46 @@ func TestP1EveryCallEnds(t *testing.T) {
 	ferry.WriteOld(texts)
 }
 
+// oddNumbers: small ones, those at bounds, and the least and the greatest that there are.
+var oddNumbers = []int{0, 1, 2, 3, 7, 99, 100, 101, 1<<30 - 1, 1 << 30, 1<<30 + 1, 1<<31 - 1, 1 << 31, 1 << 32, 1 << 62, math.MaxInt - 1, math.MaxInt, -1, -2, -100, -1 << 30, -1 << 31, -1 << 62, math.MinInt + 1, math.MinInt}
+
+func TestP1EveryTreeCallEnds(t *testing.T) {
+	long := strings.Repeat("\xff", 1<<22)
+	for _, entries := range [][]string{nil, {}, {""}, {long}, three, {"a", long}, times(100, ""), times(101, long), times(1<<20, "")} {
+		ferry.Root(entries)
+		for _, i := range oddNumbers {
+			ferry.Prove(entries, i)
+		}
+	}
+	for _, length := range []int{0, 1, 2, 29, 30, 31, 62, 63, 64, 1 << 16} {
+		path := make([]api.Digest, length)
+		for _, n := range oddNumbers {
+			for _, i := range append([]int{n - 1, n, n + 1, n / 2}, oddNumbers...) {
+				ferry.Verify(api.Digest{}, n, i, "", path)
+			}
+		}
+		ferry.Verify(api.Digest{}, 1, 0, long, path)
+	}
+	ferry.Verify(api.Digest{}, 0, 0, "", nil)
+}
+
 func TestP1NothingBesideAnError(t *testing.T) {
 	long := strings.Repeat("x", api.MaxEntry+1)
 	for _, entries := range [][]string{times(101, "a"), {"a", "b", long}, times(101, long)} {
 		if old, e := ferry.WriteOld(entries); e == api.OK || old != "" {
 			t.Errorf("WriteOld of %d entries = %.30q beside the error %d", len(entries), old, e)
+		}
+	}
+	for _, entries := range [][]string{times(101, "a"), {"a", "b", long}, times(101, long)} {
+		if root, e := ferry.Root(entries); e == api.OK || root != (api.Digest{}) {
+			t.Errorf("Root of %d entries = %x beside the error %d", len(entries), root, e)
+		}
+	}
+	for _, entries := range [][]string{nil, three, times(101, "a"), {"a", "b", long}, times(101, long)} {
+		for _, i := range []int{-1, len(entries), math.MaxInt, math.MinInt} {
+			if path, e := ferry.Prove(entries, i); e == api.OK || len(path) != 0 {
+				t.Errorf("Prove of %d entries, entry %d, = %d roots beside the error %d", len(entries), i, len(path), e)
+			}
 		}
 	}
 	// A good beginning is not told either where the text is too long.
@@ -58,11 +94,21 @@ func TestP2AnswersHangOnArgumentsAlone(t *testing.T) {
 		ferry.ReadOld(oldLog(randomLog(r)))
 		ferry.OldSum("x")
 		ferry.NewSum(strings.Repeat("x", 100))
+		ferry.Root(randomLog(r))
+		ferry.Prove(three, 1)
+		ferry.Prove(three, 3)
+		ferry.Verify(strongSum, 3, 1, "a", []api.Digest{strongSum, strongSum})
 		if ferry.OldSum(old) != weakSum || ferry.NewSum(old) != strongSum {
 			t.Errorf("a sum of %.30q changes from call to call", old)
 		}
 		wantWritten(t, entries, old, api.OK)
 		wantRead(t, old, entries, api.OK, 0)
+		wantRoot(t, entries, rootOf(entries), api.OK)
+		for i := range entries {
+			path := pathOf(levels(entries), i)
+			wantPath(t, entries, i, path, api.OK)
+			wantVerified(t, rootOf(entries), len(entries), i, entries[i], path, true)
+		}
 	}
 }
 
@@ -110,4 +156,66 @@ func TestP2ReadOldAnswersNewLists(t *testing.T) {
 			t.Errorf("ReadOld(%.30q) = %.60q, once its first answer was written into", old, third)
 		}
 	}
+}
+
+func TestP2RootAndProveLeaveTheirListAlone(t *testing.T) {
+	long := strings.Repeat("x", api.MaxEntry+1)
+	for _, entries := range [][]string{{}, {"a"}, three, manyEntries(64), manyEntries(65), {"a", long}, manyEntries(100), times(101, "c")} {
+		room := append(slices.Clone(entries), "behind", "it")
+		before := slices.Clone(room)
+		root, _ := ferry.Root(room[:len(entries)])
+		for i := -1; i <= len(entries); i++ {
+			path, _ := ferry.Prove(room[:len(entries)], i)
+			if !slices.Equal(room, before) {
+				t.Fatalf("Root or Prove made %.60q of %.60q", room, before)
+			}
+			kept := slices.Clone(path)
+			for k := range room {
+				room[k] = "-"
+			}
+			if !slices.Equal(path, kept) {
+				t.Errorf("what Prove answered changes with its list")
+			}
+			copy(room, before)
+		}
+		again, _ := ferry.Root(room[:len(entries)])
+		if again != root {
+			t.Errorf("Root answers %x, and later %x", root, again)
+		}
+	}
+}
+
+func TestP2ProveAnswersNewLists(t *testing.T) {
+	for _, n := range []int{2, 3, 4, 5, 8, 9, 64, 65, 100} {
+		entries := manyEntries(n)
+		all := levels(entries)
+		for i := range entries {
+			first, _ := ferry.Prove(entries, i)
+			second, _ := ferry.Prove(entries, i)
+			room := second[:cap(second)]
+			behind := slices.Clone(room)
+			first = first[:cap(first)]
+			for k := range first {
+				first[k] = otherBit(first[k], k)
+			}
+			if !slices.Equal(room, behind) {
+				t.Errorf("two paths of entry %d of %d share memory", i, n)
+			}
+			wantPath(t, entries, i, pathOf(all, i), api.OK)
+		}
+	}
+}
+
+func TestP2VerifyLeavesItsPathAlone(t *testing.T) {
+	eachProof(func(root api.Digest, n, i int, entry string, path []api.Digest) {
+		room := append(slices.Clone(path), root, api.Digest{1})
+		before := slices.Clone(room)
+		for length := range len(room) + 1 {
+			wantVerified(t, root, n, i, entry, room[:length], length == len(path))
+			wantVerified(t, root, n, i, entry+"!", room[:length], false)
+		}
+		if !slices.Equal(room, before) {
+			t.Errorf("Verify of entry %d of %d wrote into its path", i, n)
+		}
+	})
 }

@@ -5,6 +5,7 @@ import (
 	"ferry/api"
 	"ferry/chain"
 	"ferry/sums"
+	"ferry/tree"
 )
 
 // OldSum tells the weak sum of a text (P3).
@@ -20,13 +21,15 @@ func WriteOld(entries []string) (string, api.Errno) { return chain.Write(entries
 func ReadOld(old string) ([]string, api.Errno, int) { return chain.Read(old) }
 
 // Root tells the root of a log (P6).
-func Root(entries []string) (api.Digest, api.Errno) { return api.Digest{}, api.OK }
+func Root(entries []string) (api.Digest, api.Errno) { return tree.Root(entries) }
 
 // Prove tells the path of an entry (P6).
-func Prove(entries []string, i int) ([]api.Digest, api.Errno) { return nil, api.OK }
+func Prove(entries []string, i int) ([]api.Digest, api.Errno) { return tree.Prove(entries, i) }
 
 // Verify tells whether a path proves an entry (P7).
-func Verify(root api.Digest, n int, i int, entry string, path []api.Digest) bool { return false }
+func Verify(root api.Digest, n int, i int, entry string, path []api.Digest) bool {
+	return tree.Verify(root, n, i, entry, path)
+}
 
 // Format makes a disk (P8).
 func Format(sectors int) ([]api.Sector, api.Errno) { return nil, api.OK }
