@@ -56,6 +56,30 @@ func TestP1EveryTreeCallEnds(t *testing.T) {
 	ferry.Verify(api.Digest{}, 0, 0, "", nil)
 }
 
+func TestP1EveryDiskCallEnds(t *testing.T) {
+	r := rand.New(rand.NewSource(20))
+	disks := [][]api.Sector{nil, {}, make([]api.Sector, 1), make([]api.Sector, 2), make([]api.Sector, 1<<16), randomSectors(r, 2), randomSectors(r, 300)}
+	for range 20 {
+		disks = append(disks, changed(r, carriedDisk(t, manyEntries(20), 60, 7)))
+	}
+	olds := []string{"", "\x00", oldLog(three), oldLog(three) + "x", oldLog(times(100, "ab")), strings.Repeat("\xff", 1<<22)}
+	for range 20 {
+		olds = append(olds, randomText(r, r.Intn(2400)))
+	}
+	for _, n := range oddNumbers {
+		ferry.Format(n)
+	}
+	for _, disk := range disks {
+		ferry.Status(disk)
+		ferry.Entries(disk)
+		for _, old := range olds {
+			for _, n := range oddNumbers {
+				ferry.Step(old, disk, n)
+			}
+		}
+	}
+}
+
 func TestP1NothingBesideAnError(t *testing.T) {
 	long := strings.Repeat("x", api.MaxEntry+1)
 	for _, entries := range [][]string{times(101, "a"), {"a", "b", long}, times(101, long)} {
@@ -74,6 +98,23 @@ func TestP1NothingBesideAnError(t *testing.T) {
 				t.Errorf("Prove of %d entries, entry %d, = %d roots beside the error %d", len(entries), i, len(path), e)
 			}
 		}
+	}
+	if disk, e := ferry.Format(301); e == api.OK || len(disk) != 0 {
+		t.Errorf("Format(301) = %d sectors beside the error %d", len(disk), e)
+	}
+	full, whole := carriedDisk(t, []string{"a"}, 2, 1), carriedDisk(t, three, 9, 3)
+	for _, c := range []struct {
+		old    string
+		disk   []api.Sector
+		batch  int
+		fault  api.Errno
+		number int
+	}{
+		{oldLog(three), whole[:1], 1, api.ErrDisk, 0}, {oldLog(three), whole, 0, api.ErrBatch, 0}, {strings.Repeat("x", 2301), whole, 1, api.ErrLong, 0},
+		{oldLog(three) + "x", whole, 1, api.ErrFrame, 3}, {oldLog(three) + "\x00\x00\x00", whole, 1, api.ErrLink, 3}, {oldLog(three), whole, 1, api.ErrDone, 0},
+		{oldLog(times(9, strings.Repeat("x", 20))), full, 8, api.ErrFull, 0},
+	} {
+		wantFault(t, c.old, c.disk, c.batch, c.fault, c.number)
 	}
 	// A good beginning is not told either where the text is too long.
 	if l, e, n := ferry.ReadOld(oldLog(times(100, "")) + strings.Repeat("\x00", 2001)); e != api.ErrLong || len(l) != 0 || n != 0 {
@@ -98,6 +139,9 @@ func TestP2AnswersHangOnArgumentsAlone(t *testing.T) {
 		ferry.Prove(three, 1)
 		ferry.Prove(three, 3)
 		ferry.Verify(strongSum, 3, 1, "a", []api.Digest{strongSum, strongSum})
+		ferry.Format(7)
+		ferry.Status(randomSectors(r, 5))
+		ferry.Step(oldLog(three), make([]api.Sector, 9), 2)
 		if ferry.OldSum(old) != weakSum || ferry.NewSum(old) != strongSum {
 			t.Errorf("a sum of %.30q changes from call to call", old)
 		}
@@ -218,4 +262,92 @@ func TestP2VerifyLeavesItsPathAlone(t *testing.T) {
 			t.Errorf("Verify of entry %d of %d wrote into its path", i, n)
 		}
 	})
+}
+
+func TestP2DiskCallsHangOnArgumentsAlone(t *testing.T) {
+	r := rand.New(rand.NewSource(21))
+	disk := carriedDisk(t, manyEntries(9), 60, 4)
+	old := oldLog(manyEntries(20))
+	plan, _, _ := ferry.Step(old, disk, 5)
+	for range 50 {
+		ferry.Format(2 + r.Intn(299))
+		other := carriedDisk(t, three, 9, 1+r.Intn(3))
+		ferry.Step(oldLog(randomLog(r)), other, 1+r.Intn(100))
+		ferry.Step(old, disk, 1+r.Intn(100))
+		ferry.Step("x", disk, 1)
+		again, e, n := ferry.Step(old, disk, 5)
+		if !slices.Equal(again, plan) || e != api.OK || n != 0 {
+			t.Fatalf("Step answers another plan with the same arguments: %d, %d", e, n)
+		}
+		wantOneOf(t, disk, carriedOf(manyEntries(9)))
+		wantOneOf(t, formatted(t, 60), carriedOf(nil))
+	}
+}
+
+func TestP2DiskCallsLeaveTheirListAlone(t *testing.T) {
+	r := rand.New(rand.NewSource(22))
+	disks := [][]api.Sector{nil, make([]api.Sector, 1), formatted(t, 2), formatted(t, 60), carriedDisk(t, three, 9, 2), carriedDisk(t, manyEntries(50), 100, 7), noisy(t, r, formatted(t, 300)), noisy(t, r, carriedDisk(t, three, 300, 2)), randomSectors(r, 9), randomSectors(r, 301)}
+	for _, disk := range disks {
+		// The list is the beginning of a longer one, so that what stands behind it can be looked at.
+		room := slices.Concat(disk, randomSectors(r, 5))
+		before := slices.Clone(room)
+		list := room[:len(disk)]
+		count, root, fault := ferry.Status(list)
+		entries, _ := ferry.Entries(list)
+		var plans [][]api.Write
+		for _, batch := range []int{0, 1, 5, 100} {
+			plan, _, _ := ferry.Step(oldLog(manyEntries(100)), list, batch)
+			plans = append(plans, plan, slices.Clone(plan))
+		}
+		if !slices.Equal(room, before) {
+			t.Fatalf("a call wrote into a list of %d sectors, or behind it", len(disk))
+		}
+		kept := make([]string, len(entries))
+		for i, entry := range entries {
+			kept[i] = strings.Clone(entry)
+		}
+		copy(room, randomSectors(r, len(room)))
+		if !slices.Equal(entries, kept) {
+			t.Errorf("what Entries answered changes with its list")
+		}
+		for k := 0; k < len(plans); k += 2 {
+			if !slices.Equal(plans[k], plans[k+1]) {
+				t.Errorf("what Step answered changes with its list")
+			}
+		}
+		again, sum, e := ferry.Status(before[:len(disk)])
+		if again != count || sum != root || e != fault {
+			t.Errorf("Status answers %d, %x, %d, and later %d, %x, %d", count, root, fault, again, sum, e)
+		}
+	}
+}
+
+func TestP2DiskCallsAnswerNewLists(t *testing.T) {
+	disk := carriedDisk(t, manyEntries(9), 60, 4)
+	old := oldLog(manyEntries(20))
+	first, _ := ferry.Format(60)
+	second, _ := ferry.Format(60)
+	wantApart(t, "Format", first[:cap(first)], second[:cap(second)], api.Sector{1, 2, 3})
+	wantOneOf(t, formatted(t, 60), carriedOf(nil))
+	entries, _ := ferry.Entries(disk)
+	others, _ := ferry.Entries(disk)
+	wantApart(t, "Entries", entries[:cap(entries)], others[:cap(others)], "-")
+	wantOneOf(t, disk, carriedOf(manyEntries(9)))
+	plan, _, _ := ferry.Step(old, disk, 5)
+	next, _, _ := ferry.Step(old, disk, 5)
+	wantApart(t, "Step", plan[:cap(plan)], next[:cap(next)], api.Write{At: 1})
+	again, after := wantStep(t, old, disk, 5)
+	wantOneOf(t, done(disk, again), after)
+}
+
+// wantApart: what is written into one answer, its spare room too, is not seen in the other.
+func wantApart[T comparable](t *testing.T, call string, first, second []T, other T) {
+	t.Helper()
+	before := slices.Clone(second)
+	for i := range first {
+		first[i] = other
+	}
+	if !slices.Equal(second, before) {
+		t.Errorf("two lists of %s share memory", call)
+	}
 }

@@ -3,6 +3,7 @@ package ferry
 
 import (
 	"ferry/api"
+	"ferry/carry"
 	"ferry/chain"
 	"ferry/sums"
 	"ferry/tree"
@@ -32,17 +33,17 @@ func Verify(root api.Digest, n int, i int, entry string, path []api.Digest) bool
 }
 
 // Format makes a disk (P8).
-func Format(sectors int) ([]api.Sector, api.Errno) { return nil, api.OK }
+func Format(sectors int) ([]api.Sector, api.Errno) { return carry.Format(sectors) }
 
 // Status tells how many entries were carried over to a disk, and their root (P9).
-func Status(disk []api.Sector) (int, api.Digest, api.Errno) { return 0, api.Digest{}, api.OK }
+func Status(disk []api.Sector) (int, api.Digest, api.Errno) { return carry.Status(disk) }
 
 // Entries tells which (P9).
-func Entries(disk []api.Sector) ([]string, api.Errno) { return nil, api.OK }
+func Entries(disk []api.Sector) ([]string, api.Errno) { return carry.Entries(disk) }
 
 // Step plans how a batch is carried over (P10).
 func Step(old string, disk []api.Sector, batch int) ([]api.Write, api.Errno, int) {
-	return nil, api.OK, 0
+	return carry.Step(old, disk, batch)
 }
 
 // OldProve proves that an entry stands in an old log (P11).
