@@ -1,4 +1,4 @@
-// Package chain: logs whose entries are chained by links, and the text of an old log.
+// Package chain: logs whose entries are chained by links, the text of an old log, and proofs by links.
 package chain
 
 import (
@@ -22,9 +22,36 @@ func Check(entries []string) api.Errno {
 	return api.OK
 }
 
+// CheckEntry tells what keeps a list of entries from being a log that has an entry i.
+func CheckEntry(entries []string, i int) api.Errno {
+	fault := Check(entries)
+	if fault != api.OK {
+		return fault
+	}
+	if i < 0 || i >= len(entries) {
+		return api.ErrIndex
+	}
+	return api.OK
+}
+
 // Link tells the link of an entry, by the link of the one ahead of it.
 func Link(ahead uint16, entry string) uint16 {
-	return sums.Weak(twoBytes(ahead) + entry)
+	text := Linked(ahead, entry)
+	return sums.Weak(text)
+}
+
+// Linked tells the text whose weak sum is the link of an entry.
+func Linked(ahead uint16, entry string) string {
+	return twoBytes(ahead) + entry
+}
+
+// LastLink tells the link of the last of some entries, by the link ahead of the first; that one, if there is none.
+func LastLink(ahead uint16, entries []string) uint16 {
+	link := ahead
+	for _, entry := range entries {
+		link = Link(link, entry)
+	}
+	return link
 }
 
 // twoBytes writes a link out, the higher byte first.

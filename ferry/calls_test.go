@@ -80,6 +80,28 @@ func TestP1EveryDiskCallEnds(t *testing.T) {
 	}
 }
 
+func TestP1EveryProofCallEnds(t *testing.T) {
+	r := rand.New(rand.NewSource(36))
+	long := strings.Repeat("\xff", 1<<20)
+	lists := [][]string{nil, {}, {""}, {long}, three, {"a", long}, times(99, ""), times(100, "ab"), times(101, ""), times(1<<16, "")}
+	olds := []string{"", "\x00", long, oldLog(three), oldLog(three) + "x", oldLog(times(100, "ab")), randomText(r, 2300)}
+	for _, list := range lists {
+		for _, n := range oddNumbers {
+			ferry.OldProve(list, n)
+			p := api.OldProof{Before: uint16(n), Rest: list}
+			for _, i := range append([]int{n - 1, n, n + 1, n - 1 - len(list), n - len(list)}, oddNumbers...) {
+				ferry.OldVerify(0, n, i, "", p)
+			}
+			for _, old := range olds {
+				ferry.Translate(old, n, "", p)
+				ferry.Translate(old, n, "ab", p)
+			}
+		}
+		ferry.OldVerify(0, 1+len(list), 0, long, api.OldProof{Rest: list})
+		ferry.Translate(oldLog(three), 2-len(list), long, api.OldProof{Rest: list})
+	}
+}
+
 func TestP1NothingBesideAnError(t *testing.T) {
 	long := strings.Repeat("x", api.MaxEntry+1)
 	for _, entries := range [][]string{times(101, "a"), {"a", "b", long}, times(101, long)} {
@@ -96,6 +118,20 @@ func TestP1NothingBesideAnError(t *testing.T) {
 		for _, i := range []int{-1, len(entries), math.MaxInt, math.MinInt} {
 			if path, e := ferry.Prove(entries, i); e == api.OK || len(path) != 0 {
 				t.Errorf("Prove of %d entries, entry %d, = %d roots beside the error %d", len(entries), i, len(path), e)
+			}
+		}
+	}
+	for _, entries := range [][]string{nil, three, times(101, "a"), {"a", "b", long}, times(101, long)} {
+		for _, i := range []int{-1, len(entries), math.MaxInt, math.MinInt} {
+			if p, e := ferry.OldProve(entries, i); e == api.OK || p.Before != 0 || len(p.Rest) != 0 {
+				t.Errorf("OldProve of %d entries, entry %d, = %04x and %d texts beside the error %d", len(entries), i, p.Before, len(p.Rest), e)
+			}
+		}
+	}
+	for _, old := range []string{strings.Repeat("x", 2301), oldLog(three) + "x", oldLog(three) + "\x00\x00\x00", oldLog(three), ""} {
+		for _, i := range []int{-1, 0, 1, 3} {
+			if c, e := ferry.Translate(old, i, "b", proofOf(three, 1)); e == api.OK || len(c.Proof) != 0 || c.Left != "" || c.Right != "" {
+				t.Errorf("Translate of %.30q, entry %d, = %d roots, %q, %q beside the error %d", old, i, len(c.Proof), c.Left, c.Right, e)
 			}
 		}
 	}
@@ -338,6 +374,116 @@ func TestP2DiskCallsAnswerNewLists(t *testing.T) {
 	wantApart(t, "Step", plan[:cap(plan)], next[:cap(next)], api.Write{At: 1})
 	again, after := wantStep(t, old, disk, 5)
 	wantOneOf(t, done(disk, again), after)
+}
+
+func TestP2ProofCallsHangOnArgumentsAlone(t *testing.T) {
+	r := rand.New(rand.NewSource(37))
+	for range 50 {
+		entries := manyEntries(1 + r.Intn(40))
+		old, i := oldLog(entries), r.Intn(len(entries))
+		p := proofOf(entries, i)
+		other, forgery := forged(t, r, entries, p.Before, i, i+r.Intn(len(entries)-i), 5)
+		// Calls that stand between two calls with the same argument, some with errors, leave no trace.
+		for range 2 {
+			wantProof(t, entries, i, p, api.OK)
+			wantHeld(t, headOf(entries), len(entries), i, entries[i], p, true)
+			wantTranslated(t, old, i, entries[i], p)
+			ferry.OldProve(randomLog(r), r.Intn(50))
+			ferry.OldProve(three, 3)
+			ferry.OldVerify(7, 3, 1, "x", proofOf(three, 1))
+			ferry.Translate(old, len(entries), "", p)
+			ferry.Translate(old+"x", i, entries[i], p)
+			ferry.Translate(oldLog(three), 1, "bc", proofOf(three, 1))
+			wantTranslated(t, old, i, other, forgery)
+		}
+	}
+}
+
+func TestP2OldProveLeavesItsListAlone(t *testing.T) {
+	long := strings.Repeat("x", api.MaxEntry+1)
+	for _, entries := range [][]string{{}, {"a"}, three, {"a", long}, manyEntries(100), times(101, "c")} {
+		// The list is the beginning of a longer one, so that what stands behind it can be looked at.
+		room := append(slices.Clone(entries), "behind", "it")
+		before := slices.Clone(room)
+		for i := -1; i <= len(entries); i++ {
+			p, _ := ferry.OldProve(room[:len(entries)], i)
+			kept := slices.Clone(p.Rest)
+			for k := range room {
+				if room[k] != before[k] {
+					t.Fatalf("OldProve made %.60q of %.60q", room, before)
+				}
+				room[k] = "-"
+			}
+			if !slices.Equal(p.Rest, kept) {
+				t.Errorf("the proof of entry %d of %d changes with the list", i, len(entries))
+			}
+			copy(room, before)
+		}
+	}
+}
+
+func TestP2OldProveAnswersNewLists(t *testing.T) {
+	for _, n := range []int{1, 2, 3, 5, 64, 99, 100} {
+		entries := manyEntries(n)
+		for i := range entries {
+			room := append(slices.Clone(entries), "behind", "it")
+			before := slices.Clone(room)
+			first, _ := ferry.OldProve(room[:n], i)
+			second, _ := ferry.OldProve(room[:n], i)
+			wantApart(t, "OldProve", first.Rest[:cap(first.Rest)], second.Rest[:cap(second.Rest)], "-")
+			if !slices.Equal(room, before) {
+				t.Fatalf("the proof of entry %d of %d is a part of the list", i, n)
+			}
+			wantProof(t, entries, i, proofOf(entries, i), api.OK)
+		}
+	}
+}
+
+func TestP2OldVerifyAndTranslateLeaveTheirProofAlone(t *testing.T) {
+	r := rand.New(rand.NewSource(38))
+	for _, n := range []int{1, 2, 3, 9, 100} {
+		entries := manyEntries(n)
+		for _, i := range []int{0, n / 2, n - 1} {
+			own := proofOf(entries, i)
+			other, forgery := forged(t, r, entries, own.Before, i, i+(n-1-i)/2, 4)
+			wantProofAlone(t, entries, i, entries[i], own)
+			wantProofAlone(t, entries, i, other, forgery)
+			wantProofAlone(t, entries, i, other+"!", own)
+		}
+	}
+}
+
+// wantProofAlone: no call writes into the texts of a proof, nor behind them, and no answer changes with them.
+func wantProofAlone(t *testing.T, entries []string, i int, entry string, p api.OldProof) {
+	t.Helper()
+	room := append(slices.Clone(p.Rest), "behind", "it")
+	before := slices.Clone(room)
+	old, want := oldLog(entries), api.OldProof{Before: p.Before, Rest: room[:len(p.Rest)]}
+	held := ferry.OldVerify(headOf(entries), len(entries), i, entry, want)
+	c, e := ferry.Translate(old, i, entry, want)
+	if !slices.Equal(room, before) {
+		t.Fatalf("OldVerify or Translate made %.60q of %.60q", room, before)
+	}
+	for k := range room {
+		room[k] = "-"
+	}
+	wantCarried(t, old, i, entry, p, c, e)
+	wantTranslated(t, old, i, entry, p)
+	wantHeld(t, headOf(entries), len(entries), i, entry, p, held)
+}
+
+func TestP2TranslateAnswersNewLists(t *testing.T) {
+	for _, n := range []int{2, 3, 5, 8, 64, 65, 100} {
+		entries := manyEntries(n)
+		old, all := oldLog(entries), levels(entries)
+		for i, entry := range entries {
+			p := proofOf(entries, i)
+			first, _ := ferry.Translate(old, i, entry, p)
+			second, _ := ferry.Translate(old, i, entry, p)
+			wantApart(t, "Translate", first.Proof[:cap(first.Proof)], second.Proof[:cap(second.Proof)], api.Digest{1})
+			wantCarried(t, old, i, entry, p, api.Carried{Proof: pathOf(all, i)}, api.OK)
+		}
+	}
 }
 
 // wantApart: what is written into one answer, its spare room too, is not seen in the other.

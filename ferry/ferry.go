@@ -6,6 +6,7 @@ import (
 	"ferry/carry"
 	"ferry/chain"
 	"ferry/sums"
+	"ferry/translate"
 	"ferry/tree"
 )
 
@@ -47,12 +48,14 @@ func Step(old string, disk []api.Sector, batch int) ([]api.Write, api.Errno, int
 }
 
 // OldProve proves that an entry stands in an old log (P11).
-func OldProve(entries []string, i int) (api.OldProof, api.Errno) { return api.OldProof{}, api.OK }
+func OldProve(entries []string, i int) (api.OldProof, api.Errno) { return chain.Prove(entries, i) }
 
 // OldVerify tells whether such a proof holds (P11).
-func OldVerify(head uint16, n int, i int, entry string, p api.OldProof) bool { return false }
+func OldVerify(head uint16, n int, i int, entry string, p api.OldProof) bool {
+	return chain.Verify(head, n, i, entry, p)
+}
 
 // Translate turns such a proof into a path (P12).
 func Translate(old string, i int, entry string, p api.OldProof) (api.Carried, api.Errno) {
-	return api.Carried{}, api.OK
+	return translate.Proof(old, i, entry, p)
 }

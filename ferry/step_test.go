@@ -282,33 +282,38 @@ func everyTear(disk smallDisk, plan []api.Write, loose []int, see func(smallDisk
 	}
 }
 
-// Crashes one behind the other, by other batches each time, and then plans that are done in full.
+// roughDisk: a disk to which a log was carried over whole, by plans of other batches each time, of which most crashed.
+func roughDisk(t *testing.T, r *rand.Rand, entries []string) []api.Sector {
+	t.Helper()
+	old := oldLog(entries)
+	disk := formatted(t, enough(entries)+r.Intn(3))
+	before := carriedOf(nil)
+	for tries := 0; len(before.entries) < len(entries); tries++ {
+		plan, after := wantStep(t, old, disk, 1+r.Intn(1+r.Intn(100)))
+		if r.Intn(4) == 0 || tries > 30 {
+			disk = done(disk, plan)
+			wantOneOf(t, disk, after)
+			before = after
+			continue
+		}
+		torn := make([]int, len(plan))
+		for i := range torn {
+			torn[i] = []int{0, r.Intn(33), 32}[r.Intn(3)]
+		}
+		disk = crashed(disk, plan, r.Intn(len(plan)+1), torn)
+		wantOneOf(t, disk, before, after)
+		if count, _, _ := ferry.Status(disk); count == len(after.entries) {
+			before = after
+		}
+	}
+	wantFault(t, old, disk, 1, api.ErrDone, 0)
+	return disk
+}
+
 func TestP10CrashesOneBehindTheOther(t *testing.T) {
 	r := rand.New(rand.NewSource(16))
 	for range 400 {
-		entries := randomLog(r)
-		old := oldLog(entries)
-		disk := formatted(t, enough(entries)+r.Intn(3))
-		before := carriedOf(nil)
-		for tries := 0; len(before.entries) < len(entries); tries++ {
-			plan, after := wantStep(t, old, disk, 1+r.Intn(1+r.Intn(100)))
-			if r.Intn(4) == 0 || tries > 30 {
-				disk = done(disk, plan)
-				wantOneOf(t, disk, after)
-				before = after
-				continue
-			}
-			torn := make([]int, len(plan))
-			for i := range torn {
-				torn[i] = []int{0, r.Intn(33), 32}[r.Intn(3)]
-			}
-			disk = crashed(disk, plan, r.Intn(len(plan)+1), torn)
-			wantOneOf(t, disk, before, after)
-			if count, _, _ := ferry.Status(disk); count == len(after.entries) {
-				before = after
-			}
-		}
-		wantFault(t, old, disk, 1, api.ErrDone, 0)
+		roughDisk(t, r, randomLog(r))
 	}
 }
 

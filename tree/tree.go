@@ -18,12 +18,9 @@ func Root(entries []string) (api.Digest, api.Errno) {
 
 // Prove tells the path of entry i of a log.
 func Prove(entries []string, i int) ([]api.Digest, api.Errno) {
-	fault := chain.Check(entries)
+	fault := chain.CheckEntry(entries, i)
 	if fault != api.OK {
 		return nil, fault
-	}
-	if i < 0 || i >= len(entries) {
-		return nil, api.ErrIndex
 	}
 	return pathOf(entries, i), api.OK
 }
